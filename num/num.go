@@ -122,7 +122,7 @@ func Dot(l, m []api.Num) (api.Num, api.Errno) {
 	if len(l) != len(m) {
 		return api.Num{}, api.ErrDim
 	}
-	return products(l, m).Num()
+	return exact.Dot(l, m).Num()
 }
 
 // allValid reports whether all numbers of l are valid.
@@ -133,19 +133,6 @@ func allValid(l []api.Num) bool {
 		}
 	}
 	return true
-}
-
-// products returns the sum of the products of corresponding numbers. It adds halves: a running sum
-// may grow with each product, and long numbers take less time if they are added to few others.
-func products(l, m []api.Num) exact.Rat {
-	switch len(l) {
-	case 0:
-		return exact.Rat{}
-	case 1:
-		return exact.Of(l[0]).Mul(exact.Of(m[0]))
-	}
-	half := len(l) / 2
-	return products(l[:half], m[:half]).Add(products(l[half:], m[half:]))
 }
 
 // Print returns the printed form of a. It returns ErrArg if a is not valid.
