@@ -66,6 +66,10 @@ func TestIntegers(t *testing.T) {
 		if a.Cmp(b) != x.Cmp(y) || a.Cmp(a) != 0 || a.Sign() != x.Sign() || a.Bits() != x.BitLen() {
 			t.Fatalf("Cmp, Sign or Bits of %v and %v", x, y)
 		}
+		n := uint64(r.Int63()) << r.Intn(2)
+		if want := new(big.Int).Mod(x, new(big.Int).SetUint64(n)); a.Modulo(n) != want.Uint64() {
+			t.Fatalf("%v modulo %d: %d", x, n, a.Modulo(n))
+		}
 		if b.Sign() != 0 {
 			quotient, rest := a.Divide(b)
 			q, m := new(big.Int).QuoRem(x, y, new(big.Int))

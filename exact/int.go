@@ -120,3 +120,12 @@ func (a Int) limited() (int, bool) {
 	}
 	return n, true
 }
+
+// Modulo returns the rest of a after division by n, from 0 to n - 1, for n other than 0.
+func (a Int) Modulo(n uint64) uint64 {
+	_, rest := a.magnitude.divide(word(n))
+	if a.negative && len(rest) > 0 {
+		return n - rest.word()
+	}
+	return rest.word()
+}

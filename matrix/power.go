@@ -5,6 +5,7 @@ import (
 	"dicebox/exact"
 	"dicebox/residue"
 	"math/bits"
+	"slices"
 )
 
 // ring is the arithmetic of the numbers of a table. The zero value of T is 0.
@@ -34,24 +35,11 @@ func Power(a [][]api.Num, n int) ([][]api.Num, api.Errno) {
 // mayHavePower reports whether there are valid numbers with the residues of the power of a. Most
 // powers with very long numbers are refused here, before a long number has been computed.
 func mayHavePower(a [][]api.Num, n int) bool {
-	var fields []residue.Field
-	var powers [][][]uint64
-	for f := range residue.Fields {
+	_, found := residue.Guess(func(f residue.Field) []uint64 {
 		residues := ring[uint64]{1, f.Add, f.Mul}
-		fields = append(fields, f)
-		powers = append(powers, power(residues, each(a, f.Of), n))
-		if len(fields) == 2 {
-			break
-		}
-	}
-	for i, row := range powers[0] {
-		for j, left := range row {
-			if _, found := residue.Rebuild(fields[0], fields[1], left, powers[1][i][j]); !found {
-				return false
-			}
-		}
-	}
-	return true
+		return slices.Concat(power(residues, each(a, f.Of), n)...)
+	})
+	return found
 }
 
 // power returns the product of n copies of a square table.

@@ -69,21 +69,36 @@ func (f Field) Of(a api.Num) uint64 {
 	return f.Mul(top, f.Inverse(uint64(a.Low)))
 }
 
+// Modulo returns the residue of the integer a.
+func (f Field) Modulo(a exact.Int) uint64 {
+	return a.Modulo(f.prime)
+}
+
+// Prime returns the prime.
+func (f Field) Prime() exact.Int {
+	return exact.Unsigned(f.prime)
+}
+
 // Rebuild returns the valid number with the residue a in f and b in g, two different fields, and
 // whether there is one. There is at most one: if t / l and u / m are two, the product of both
 // primes divides t * m - u * l, which is at most 2 * MaxNum^2 and so less than that product.
 func Rebuild(f, g Field, a, b uint64) (api.Num, bool) {
 	steps := g.Mul(g.Sub(b, a%g.prime), g.Inverse(f.prime%g.prime))
-	prime := exact.Unsigned(f.prime)
-	both := exact.Unsigned(a).Add(prime.Mul(exact.Unsigned(steps)))
-	return fraction(both, prime.Mul(exact.Unsigned(g.prime)))
+	both := exact.Unsigned(a).Add(f.Prime().Mul(exact.Unsigned(steps)))
+	out, found := Fraction(both, f.Prime().Mul(g.Prime()), exact.Whole(api.MaxNum))
+	if !found {
+		return api.Num{}, false
+	}
+	number, e := out.Num()
+	return number, e == api.OK
 }
 
-// fraction returns the valid number with the residue a modulo the product of two primes. In Euclid's
-// algorithm for both, each rest is a times its factor; the first rest that is short enough
-// belongs to the number, if there is one.
-func fraction(a, product exact.Int) (api.Num, bool) {
-	limit := exact.Whole(api.MaxNum)
+// Fraction returns the rational number with the residue a, at least 0, modulo product whose parts are
+// at most limit, and whether it has found one. In Euclid's algorithm for both, each rest is a times
+// its factor, apart from multiples of product; the first rest that is short enough belongs to
+// the number, if there is one. There is at most one if product is more than twice the square of
+// limit.
+func Fraction(a, product, limit exact.Int) (exact.Rat, bool) {
 	before, rest := product, a
 	factorBefore, factor := exact.Int{}, exact.Whole(1)
 	for rest.Cmp(limit) > 0 {
@@ -92,8 +107,7 @@ func fraction(a, product exact.Int) (api.Num, bool) {
 		factorBefore, factor = factor, factorBefore.Sub(quotient.Mul(factor))
 	}
 	if factor.Abs().Cmp(limit) > 0 {
-		return api.Num{}, false
+		return exact.Rat{}, false
 	}
-	number, e := exact.Ratio(rest, factor).Num()
-	return number, e == api.OK
+	return exact.Ratio(rest, factor), true
 }
