@@ -70,7 +70,7 @@ func LongRun(m api.Model, s int) ([]api.Num, api.Errno) {
 			out[component[i]] = chance.Mul(share)
 		}
 	}
-	return narrow(out)
+	return exact.Nums(out)
 }
 
 // entries returns for each state of a bottom component the chance that a path from s enters the

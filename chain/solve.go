@@ -47,18 +47,9 @@ func solveExactly(l []equation) []exact.Rat {
 	left, right := rows(l)
 	table := make([][]exact.Rat, len(left))
 	for i, row := range left {
-		table[i] = wide(row)
+		table[i] = exact.List(row)
 	}
-	out, _ := linear.Solve(table, wide(right))
-	return out
-}
-
-// wide returns a list of numbers as numbers of any size.
-func wide(l []api.Num) []exact.Rat {
-	out := make([]exact.Rat, len(l))
-	for i, a := range l {
-		out[i] = exact.Of(a)
-	}
+	out, _ := linear.Solve(table, exact.List(right))
 	return out
 }
 

@@ -62,7 +62,7 @@ func repeat(rows [][]api.Branch, x []api.Num, n int) ([]api.Num, api.Errno) {
 		return nil, api.ErrFull
 	}
 	rationals := arithmetic[exact.Rat]{exact.Of, exact.Rat.Add, exact.Rat.Mul}
-	return narrow(nth(vectors(rationals, rows, x), n))
+	return exact.Nums(nth(vectors(rationals, rows, x), n))
 }
 
 // checkCount returns ErrRange unless n is a possible number of steps.

@@ -100,17 +100,3 @@ func (a Rat) Quo(b Rat) Rat {
 	}
 	return a.Mul(inverse)
 }
-
-// Dot returns the sum of the products of corresponding numbers of two lists of the same length. It
-// adds halves: a running sum may grow with each product, and long numbers take less time if they
-// are added to few others.
-func Dot(l, m []api.Num) Rat {
-	switch len(l) {
-	case 0:
-		return Rat{}
-	case 1:
-		return Of(l[0]).Mul(Of(m[0]))
-	}
-	half := len(l) / 2
-	return Dot(l[:half], m[:half]).Add(Dot(l[half:], m[half:]))
-}

@@ -38,22 +38,14 @@ func Solve(a [][]exact.Rat, b []exact.Rat) ([]exact.Rat, bool) {
 // whole returns the terms of a row and the number to its right, both multiplied by the least number
 // that makes them integers.
 func whole(row []exact.Rat, right exact.Rat) ([]term, exact.Int) {
-	low := right.Low()
-	for _, number := range row {
-		multiple, _ := number.Low().Divide(low.Divisor(number.Low()))
-		low = low.Mul(multiple)
-	}
-	times := func(number exact.Rat) exact.Int {
-		multiple, _ := low.Divide(number.Low())
-		return number.Top().Mul(multiple)
-	}
+	low := exact.Common(append([]exact.Rat{right}, row...))
 	var out []term
 	for j, number := range row {
 		if number.Sign() != 0 {
-			out = append(out, term{j, times(number)})
+			out = append(out, term{j, number.Times(low)})
 		}
 	}
-	return out, times(right)
+	return out, right.Times(low)
 }
 
 // inverse returns a field in which the rows have an inverse, and that. There is none if so many primes

@@ -102,14 +102,11 @@ func each[T any](a [][]api.Num, convert func(api.Num) T) [][]T {
 func narrow(a [][]exact.Rat) ([][]api.Num, api.Errno) {
 	out := make([][]api.Num, len(a))
 	for i, row := range a {
-		out[i] = make([]api.Num, len(row))
-		for j, x := range row {
-			number, e := x.Num()
-			if e != api.OK {
-				return nil, e
-			}
-			out[i][j] = number
+		numbers, e := exact.Nums(row)
+		if e != api.OK {
+			return nil, e
 		}
+		out[i] = numbers
 	}
 	return out, api.OK
 }

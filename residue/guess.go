@@ -2,20 +2,30 @@ package residue
 
 import "dicebox/api"
 
-// Guess returns valid numbers that have the residues that compute returns for each field, and whether
-// there are any. Wherever compute returns the residues of a list of valid numbers, they are
-// that list. Other numbers rarely have such residues, because of the third field; but they may:
-// who has to be certain computes the numbers in another way.
-func Guess(compute func(f Field) []uint64) ([]api.Num, bool) {
-	var fields []Field
-	var images [][]uint64
+// fieldCount is the number of fields whose residues are compared with those of valid numbers: two of them
+// determine a valid number, and the third one refuses most others.
+const fieldCount = 3
+
+// Triple returns the fields whose residues Match expects.
+func Triple() [fieldCount]Field {
+	var out [fieldCount]Field
+	i := 0
 	for f := range Fields {
-		fields = append(fields, f)
-		images = append(images, compute(f))
-		if len(fields) == 3 {
+		out[i] = f
+		i++
+		if i == fieldCount {
 			break
 		}
 	}
+	return out
+}
+
+// Match returns the valid numbers that have these residues in the fields of Triple, a list for each
+// field, and whether there are any. Only one list of valid numbers may have them. Numbers that are
+// not valid rarely have residues that valid numbers have too; but they may: who has to be certain
+// computes the numbers in another way.
+func Match(images [fieldCount][]uint64) ([]api.Num, bool) {
+	fields := Triple()
 	out := make([]api.Num, len(images[0]))
 	for i := range out {
 		number, found := Rebuild(fields[0], fields[1], images[0][i], images[1][i])
@@ -25,4 +35,14 @@ func Guess(compute func(f Field) []uint64) ([]api.Num, bool) {
 		out[i] = number
 	}
 	return out, true
+}
+
+// Guess returns the valid numbers that have the residues that compute returns for each field of Triple,
+// and whether there are any, like Match.
+func Guess(compute func(f Field) []uint64) ([]api.Num, bool) {
+	var images [fieldCount][]uint64
+	for i, f := range Triple() {
+		images[i] = compute(f)
+	}
+	return Match(images)
 }
