@@ -5,8 +5,8 @@ import (
 	"dicebox/exact"
 	"dicebox/model"
 	"dicebox/policy"
+	"dicebox/row"
 	"dicebox/sure"
-	"slices"
 )
 
 // player is one of the two opponents.
@@ -61,6 +61,12 @@ func opponent(p int) player {
 type game struct {
 	model api.Model
 	goal  []int
+	means [][]row.Row // those by all choices
+}
+
+// newGame returns the game of a valid model with a valid goal.
+func newGame(m api.Model, goal []int) game {
+	return game{m, goal, policy.Means(m)}
 }
 
 // solve returns the values of all states, and an optimal strategy: player 0 improves its choices as long as the
@@ -92,12 +98,13 @@ func (g game) answer(p player, pick []int) []exact.Rat {
 // is. x contains the chances of reaching the goal with pick.
 func (g game) improve(p player, x []exact.Rat, pick []int) bool {
 	found := false
-	whole := policy.Whole(x)
+	whole, _ := exact.Scaled(x)
+	one := exact.Of(api.Num{Top: 1, Low: 1})
 	for s, state := range g.model.States {
-		if _, inGoal := slices.BinarySearch(g.goal, s); inGoal || state.Owner != p.owner() {
+		if policy.Contains(g.goal, s) || state.Owner != p.owner() {
 			continue
 		}
-		if choice, mean := policy.Best(p.prefers, whole, state.Choices...); p.prefers(mean.Cmp(whole[s])) {
+		if choice, mean := row.Best(p.prefers, whole, one, g.means[s]...); p.prefers(mean.Cmp(whole[s])) {
 			pick[s] = choice
 			found = true
 		}

@@ -287,7 +287,7 @@ func TestGreatest(t *testing.T) {
 	if is, e := Optimal(m, goal, make([]int, n)); is || e != api.OK {
 		t.Errorf("%v %d", is, e)
 	}
-	g := game{m, goal}
+	g := newGame(m, goal)
 	x, s := g.solve()
 	if is, e := Optimal(m, goal, s); !is || e != api.OK || len(x) != n {
 		t.Errorf("%v %d", is, e)

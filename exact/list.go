@@ -40,6 +40,17 @@ func (a Rat) Times(n Int) Int {
 	return a.top.Mul(n.over(a.Low()))
 }
 
+// Scaled returns l, multiplied by the least number that makes all of it integers, and that number. Sums of
+// integers are computed faster.
+func Scaled(l []Rat) ([]Rat, Rat) {
+	low := Common(l)
+	out := make([]Rat, len(l))
+	for i, a := range l {
+		out[i] = Rat{a.Times(low), Whole(1)}
+	}
+	return out, Rat{low, Whole(1)}
+}
+
 // Dot returns the sum of the products of corresponding numbers of two lists of the same length. It
 // adds halves: a running sum may grow with each product, and long numbers take less time if they
 // are added to few others.

@@ -47,3 +47,17 @@ func TestCommon(t *testing.T) {
 		}
 	}
 }
+
+func TestScaled(t *testing.T) {
+	l := []Rat{Ratio(Whole(1), Whole(6)), Ratio(Whole(-3), Whole(4)), {}}
+	whole, scale := Scaled(l)
+	checkRat(t, "Scaled", scale, big.NewRat(12, 1))
+	for i, want := range []int64{2, -9, 0} {
+		checkRat(t, "Scaled", whole[i], big.NewRat(want, 1))
+	}
+	whole, scale = Scaled(nil)
+	checkRat(t, "Scaled", scale, big.NewRat(1, 1))
+	if len(whole) != 0 {
+		t.Errorf("%v", whole)
+	}
+}

@@ -1,9 +1,9 @@
 package horizon
 
 import (
-	"dicebox/api"
 	"dicebox/exact"
 	"dicebox/residue"
+	"dicebox/row"
 )
 
 // firstPrecision is the precision of the first estimates.
@@ -15,41 +15,42 @@ type image struct {
 	residues [3]uint64
 }
 
-// choice is a choice with the means by it: the sum of the numbers of its parts, each multiplied by its
-// factor, divided by low.
+// choice is a row of a state: what results from it is the sum of gain and the numbers of its parts, each
+// multiplied by its factor, divided by low.
 type choice struct {
-	low   exact.Int
-	parts []part
+	low, gain exact.Int
+	residues  [3]uint64 // those of the gain of the row
+	parts     []part
 }
 
-// part is a branch of a choice.
+// part is a part of a row.
 type part struct {
 	to       int
 	factor   exact.Int
-	residues [3]uint64 // those of the chance
+	residues [3]uint64 // those of the weight
 }
 
 // estimates computes with images. Each of their estimates differs from the number, multiplied by scale, by at
 // most margin.
 type estimates struct {
-	game    game
+	game    Game
 	fields  [3]residue.Field
 	choices [][]choice
 	scale   exact.Int
 	margin  exact.Int
 }
 
-// refused reports whether the numbers after n steps are certainly not valid.
-func (g game) refused(n int) bool {
+// estimate returns the plan of n steps, and whether the numbers after them are certainly not valid.
+func (g Game) estimate(n int) (plan, bool) {
 	e := estimates{game: g, fields: residue.Triple()}
-	for _, state := range g.states {
-		e.choices = append(e.choices, e.prepare(state.Choices))
+	for _, rows := range g.Rows {
+		e.choices = append(e.choices, e.prepare(rows))
 	}
 	for precision := firstPrecision; ; precision *= 2 {
 		e.scale = powerOfTwo(precision)
-		if images, decided := e.repeat(n); decided {
+		if images, p := e.repeat(n); len(p) == n {
 			_, found := residue.Match(columns(images))
-			return !found
+			return p, !found
 		}
 	}
 }
@@ -64,79 +65,85 @@ func powerOfTwo(n int) exact.Int {
 }
 
 // prepare returns the choices of a state.
-func (e *estimates) prepare(l []api.Choice) []choice {
-	out := make([]choice, len(l))
-	for i, c := range l {
-		chances := make([]exact.Rat, len(c.Branches))
-		for j, branch := range c.Branches {
-			chances[j] = exact.Of(branch.Chance)
+func (e *estimates) prepare(rows []row.Row) []choice {
+	out := make([]choice, len(rows))
+	for i, r := range rows {
+		numbers := []exact.Rat{r.Gain}
+		for _, p := range r.Parts {
+			numbers = append(numbers, p.Weight)
 		}
-		out[i].low = exact.Common(chances)
-		for j, branch := range c.Branches {
-			out[i].parts = append(out[i].parts, part{branch.To, chances[j].Times(out[i].low), e.residues(branch.Chance)})
+		low := exact.Common(numbers)
+		out[i] = choice{low: low, gain: r.Gain.Times(low), residues: e.residues(r.Gain)}
+		for _, p := range r.Parts {
+			out[i].parts = append(out[i].parts, part{p.To, p.Weight.Times(low), e.residues(p.Weight)})
 		}
 	}
 	return out
 }
 
-// residues returns the residues of a number.
-func (e *estimates) residues(a api.Num) [3]uint64 {
+// residues returns the residues of a number whose lower number is a product of valid ones.
+func (e *estimates) residues(a exact.Rat) [3]uint64 {
 	var out [3]uint64
 	for i, f := range e.fields {
-		out[i] = f.Of(a)
+		out[i] = f.Mul(f.Modulo(a.Top()), f.Inverse(f.Modulo(a.Low())))
 	}
 	return out
 }
 
-// repeat returns the images of the numbers after n steps, and whether it was able to tell at each step which
-// means are best.
-func (e *estimates) repeat(n int) ([]image, bool) {
+// repeat returns the images of the numbers after n steps and the plan of these steps. The plan ends before the
+// first step for which the estimates do not tell which choices are best.
+func (e *estimates) repeat(n int) ([]image, plan) {
 	now := make([]image, len(e.choices))
-	for s, number := range e.game.first {
+	for s, number := range e.game.First {
 		estimate, _ := exact.Whole(number.Top).Mul(e.scale).Divide(exact.Whole(number.Low))
-		now[s] = image{estimate, e.residues(number)}
+		now[s] = image{estimate, e.residues(exact.Of(number))}
 	}
+	var out plan
 	for step := range n {
 		// rounding adds at most 1 to the margin of each step
 		e.margin = exact.Whole(step + 2)
-		next := make([]image, len(now))
+		next, chosen := make([]image, len(now)), make([][]int, len(now))
 		for s, choices := range e.choices {
-			best, decided := e.best(now, choices)
-			if !decided {
-				return nil, false
+			next[s], chosen[s] = e.best(s, now, choices)
+			if len(chosen[s]) == 0 {
+				return now, out
 			}
-			next[s] = best
 		}
-		now = next
+		now, out = next, append(out, chosen)
 	}
-	return now, true
+	return now, out
 }
 
-// best returns the image of the best mean, and whether it is known. Two means whose estimates are too close
-// may be different or equal; but if their residues are equal, those of the best one are known, and its
-// estimate has the same margin whichever it is.
-func (e *estimates) best(x []image, choices []choice) (image, bool) {
-	means := make([]image, len(choices))
+// best returns the image of the best number that results from a choice of state s, and the choices from which it may
+// result, or none if it is not known. Two numbers whose estimates are too close may be different or
+// equal; but if their residues are equal, those of the best one are known, and its estimate has the
+// same margin whichever it is.
+func (e *estimates) best(s int, x []image, choices []choice) (image, []int) {
+	images := make([]image, len(choices))
 	best := 0
 	for i, c := range choices {
-		means[i] = e.mean(x, c)
-		if e.game.prefers(means[i].estimate.Cmp(means[best].estimate)) {
+		images[i] = e.at(x, c)
+		if e.game.Prefers(s, images[i].estimate.Cmp(images[best].estimate)) {
 			best = i
 		}
 	}
+	var candidates []int
 	reach := e.margin.Add(e.margin)
-	for _, mean := range means {
-		distance := mean.estimate.Sub(means[best].estimate).Abs()
-		if distance.Cmp(reach) <= 0 && mean.residues != means[best].residues {
-			return image{}, false
+	for i, other := range images {
+		if other.estimate.Sub(images[best].estimate).Abs().Cmp(reach) > 0 {
+			continue
 		}
+		if other.residues != images[best].residues {
+			return image{}, nil
+		}
+		candidates = append(candidates, i)
 	}
-	return means[best], true
+	return images[best], candidates
 }
 
-// mean returns the image of the mean by a choice.
-func (e *estimates) mean(x []image, c choice) image {
-	var out image
+// at returns the image of what results from a choice.
+func (e *estimates) at(x []image, c choice) image {
+	out := image{c.gain.Mul(e.scale), c.residues}
 	for _, p := range c.parts {
 		out.estimate = out.estimate.Add(p.factor.Mul(x[p.to].estimate))
 		for i, f := range e.fields {

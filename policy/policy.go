@@ -1,4 +1,4 @@
-// Package policy compares choices, and computes the chances that strategies attain, with numbers of any size.
+// Package policy computes means by choices, and the chances that strategies attain, with numbers of any size.
 // The layers improve strategies with it: the chances on the way to the best strategy may be not
 // valid although the best ones are.
 package policy
@@ -6,8 +6,8 @@ package policy
 import (
 	"dicebox/api"
 	"dicebox/exact"
-	"dicebox/linear"
 	"dicebox/model"
+	"dicebox/row"
 	"dicebox/sure"
 	"slices"
 )
@@ -26,36 +26,35 @@ func Check(m api.Model, goal []int, s ...[]int) api.Errno {
 	return api.OK
 }
 
-// Mean returns the mean of x by a choice.
-func Mean(c api.Choice, x []exact.Rat) exact.Rat {
-	var out exact.Rat
-	for _, branch := range c.Branches {
-		out = out.Add(exact.Of(branch.Chance).Mul(x[branch.To]))
+// Preference returns a function that reports whether the result of a comparison speaks for the first of
+// two numbers: the greater one if max is true, otherwise the lesser one.
+func Preference(max bool) func(sign int) bool {
+	if max {
+		return func(sign int) bool { return sign > 0 }
 	}
-	return out
+	return func(sign int) bool { return sign < 0 }
 }
 
-// Best returns the first of the choices to whose mean of x no other mean is preferred, and that mean.
-// prefers reports whether the result of a comparison speaks for the first of two numbers.
-func Best(prefers func(sign int) bool, x []exact.Rat, choices ...api.Choice) (int, exact.Rat) {
-	best, highest := 0, Mean(choices[0], x)
-	for i, c := range choices[1:] {
-		if mean := Mean(c, x); prefers(mean.Cmp(highest)) {
-			best, highest = i+1, mean
+// Contains reports whether the state s belongs to a set.
+func Contains(l []int, s int) bool {
+	_, found := slices.BinarySearch(l, s)
+	return found
+}
+
+// Means returns for each state of m the rows of the means by its choices.
+func Means(m api.Model) [][]row.Row {
+	out := make([][]row.Row, len(m.States))
+	for s, state := range m.States {
+		for _, c := range state.Choices {
+			out[s] = append(out[s], row.Of(c, exact.Rat{}, one()))
 		}
 	}
-	return best, highest
+	return out
 }
 
-// Whole returns x, multiplied by the least number that makes all of it integers. Means of integers are
-// compared faster, because their lower numbers are short.
-func Whole(x []exact.Rat) []exact.Rat {
-	low := exact.Common(x)
-	out := make([]exact.Rat, len(x))
-	for i, a := range x {
-		out[i] = exact.Ratio(a.Times(low), exact.Whole(1))
-	}
-	return out
+// one returns the number 1.
+func one() exact.Rat {
+	return exact.Of(api.Num{Top: 1, Low: 1})
 }
 
 // Chances returns for each state of m the chance of reaching goal in the chain fixed by s. All arguments are
@@ -65,30 +64,13 @@ func Chances(m api.Model, goal, s []int) []exact.Rat {
 	possible, _, _ := sure.Possible(fixed, goal, 0)
 	out := make([]exact.Rat, len(m.States))
 	for _, state := range goal {
-		out[state] = exact.Of(api.Num{Top: 1, Low: 1})
+		out[state] = one()
 	}
 	unknown := slices.DeleteFunc(possible, func(state int) bool { return out[state].Sign() > 0 })
-	for i, chance := range solve(fixed, unknown, out) {
-		out[unknown[i]] = chance
-	}
-	return out
-}
-
-// solve returns the numbers of the unknown states of a chain, each of which is the mean of all numbers. x
-// contains those of the other states, and 0 for the unknown ones.
-func solve(fixed api.Model, unknown []int, x []exact.Rat) []exact.Rat {
-	one := exact.Of(api.Num{Top: 1, Low: 1})
-	left, right := make([][]exact.Rat, len(unknown)), make([]exact.Rat, len(unknown))
+	rows := make([]row.Row, len(unknown))
 	for i, state := range unknown {
-		choice := fixed.States[state].Choices[0]
-		left[i], right[i] = make([]exact.Rat, len(unknown)), Mean(choice, x)
-		left[i][i] = one
-		for _, branch := range choice.Branches {
-			if j, found := slices.BinarySearch(unknown, branch.To); found {
-				left[i][j] = left[i][j].Sub(exact.Of(branch.Chance))
-			}
-		}
+		rows[i] = row.Of(fixed.States[state].Choices[0], exact.Rat{}, one())
 	}
-	out, _ := linear.Solve(left, right)
+	row.Solve(out, unknown, rows)
 	return out
 }

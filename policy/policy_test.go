@@ -35,26 +35,25 @@ func even(to ...int) api.Choice {
 	return out
 }
 
-func TestBest(t *testing.T) {
-	x := list(1, 2, 6, -3)
-	choices := []api.Choice{even(0, 1), even(2, 3), even(0, 1), even(0, 1, 2), even(3), even(0, 1, 2), even(3)}
-	greater := func(sign int) bool { return sign > 0 }
-	less := func(sign int) bool { return sign < 0 }
-	if i, mean := Best(greater, x, choices...); i != 3 || mean.Cmp(ratio(1, 2)) != 0 {
-		t.Errorf("%d %v", i, mean)
-	}
-	if i, mean := Best(less, x, choices...); i != 4 || mean.Cmp(ratio(-1, 2)) != 0 {
-		t.Errorf("%d %v", i, mean)
-	}
-	if i, mean := Best(less, x, even(0), even(0)); i != 0 || mean.Cmp(ratio(1, 6)) != 0 {
-		t.Errorf("%d %v", i, mean)
+func TestMeans(t *testing.T) {
+	m := api.Model{States: []api.State{{Choices: []api.Choice{even(0), even(0, 1, 2)}}, {Choices: []api.Choice{even(1, 2)}}, {Choices: []api.Choice{even(2)}}}}
+	m.States[0].Choices[1].Reward = api.Num{Top: 5, Low: 1}
+	want := [][]exact.Rat{list(6, 7), {ratio(5, 4)}, list(12)}
+	for s, rows := range Means(m) {
+		var got []exact.Rat
+		for _, r := range rows {
+			got = append(got, r.At(list(6, 3, 12), one()))
+		}
+		if !equal(got, want[s]) {
+			t.Errorf("state %d: %v instead of %v", s, got, want[s])
+		}
 	}
 }
 
-func TestWhole(t *testing.T) {
-	for _, pair := range [][2][]exact.Rat{{list(1, 2, -3), {ratio(1, 1), ratio(2, 1), ratio(-3, 1)}}, {list(6, 0), {ratio(1, 1), {}}}, {nil, nil}} {
-		if got := Whole(pair[0]); !equal(got, pair[1]) {
-			t.Errorf("%v instead of %v", got, pair[1])
+func TestPreference(t *testing.T) {
+	for sign := -1; sign <= 1; sign++ {
+		if Preference(true)(sign) != (sign == 1) || Preference(false)(sign) != (sign == -1) {
+			t.Errorf("%d", sign)
 		}
 	}
 }

@@ -4,18 +4,20 @@ import (
 	"dicebox/api"
 	"dicebox/exact"
 	"dicebox/policy"
+	"dicebox/row"
 	"dicebox/sure"
 	"slices"
 )
 
 // best returns the values of all states, as numbers of any size, and an optimal strategy.
 func best(m api.Model, goal []int, max bool) ([]exact.Rat, []int) {
-	prefers := preference(max)
+	means, prefers := policy.Means(m), policy.Preference(max)
 	pick := start(m, goal, max)
 improve:
 	for {
 		x := policy.Chances(m, goal, pick)
-		better := improved(m, goal, pick, policy.Whole(x), prefers)
+		whole, _ := exact.Scaled(x)
+		better := improved(means, goal, pick, whole, prefers)
 		for s, choice := range better {
 			if choice != pick[s] {
 				pick = better
@@ -50,14 +52,14 @@ func owned(m api.Model) api.Model {
 }
 
 // improved returns pick with a better choice in each state outside of goal that has one; x contains multiples
-// of the chances that pick attains.
-func improved(m api.Model, goal, pick []int, x []exact.Rat, prefers func(sign int) bool) []int {
+// of the chances that pick attains, and means the rows of all choices.
+func improved(means [][]row.Row, goal, pick []int, x []exact.Rat, prefers func(sign int) bool) []int {
 	out := slices.Clone(pick)
-	for s, state := range m.States {
-		if contains(goal, s) {
+	for s, rows := range means {
+		if policy.Contains(goal, s) {
 			continue
 		}
-		if choice, mean := policy.Best(prefers, x, state.Choices...); prefers(mean.Cmp(x[s])) {
+		if choice, mean := row.Best(prefers, x, exact.Of(number(1)), rows...); prefers(mean.Cmp(x[s])) {
 			out[s] = choice
 		}
 	}

@@ -2,6 +2,7 @@ package reach
 
 import (
 	"dicebox/api"
+	"dicebox/fraction"
 	"dicebox/num"
 	"dicebox/policy"
 	"slices"
@@ -104,7 +105,7 @@ func (c claim) holds() bool {
 	for s, value := range c.proof.Value {
 		rank := c.proof.Rank[s]
 		switch {
-		case contains(c.goal, s):
+		case policy.Contains(c.goal, s):
 			if value != number(1) || rank != 0 {
 				return false
 			}
@@ -131,10 +132,10 @@ func (c claim) isRanked(s int) bool {
 // isBest reports whether the number of a state is the mean by its own choice, and no other mean is
 // preferred to it.
 func (c claim) isBest(s int) bool {
-	prefers := preference(c.max)
-	own := fractionOf(c.proof.Value[s])
+	prefers := policy.Preference(c.max)
+	own := fraction.Of(c.proof.Value[s])
 	for i, choice := range c.model.States[s].Choices {
-		sign := mean(choice, c.proof.Value).compare(own)
+		sign := fraction.Mean(choice, c.proof.Value).Cmp(own)
 		if prefers(sign) || i == c.proof.Pick[s] && sign != 0 {
 			return false
 		}
