@@ -415,3 +415,42 @@ func TestLongNumbers(t *testing.T) {
 		t.Errorf("%v %d", x, e)
 	}
 }
+
+// P11.1, P11.3: values and strategies of games with many states and choices
+func TestManyStates(t *testing.T) {
+	r := rand.New(rand.NewSource(7))
+	valid := 0
+	for range 200 {
+		n := 10 + r.Intn(api.MaxStates-9)
+		m := sample(r, n, false, 3, 4)
+		for s, state := range m.States {
+			for len(state.Choices) < api.MaxChoices {
+				state.Choices = append(state.Choices, sampleChoice(r, n, 4, ratio(r.Intn(9)-4, 1)))
+			}
+			// the states lead to few others, so that many values are valid
+			for i := range state.Choices {
+				if r.Intn(8) > 0 {
+					state.Choices[i].Branches = []api.Branch{{To: r.Intn(n/4 + 1), Chance: ratio(1, 1)}}
+				}
+			}
+			m.States[s] = state
+		}
+		factor := ratio(1, 2+r.Intn(3))
+		x, s, e := Best(m, factor)
+		if e != api.OK {
+			continue
+		}
+		valid++
+		if is, e := Check(m, factor, x); e != api.OK || !is {
+			t.Fatalf("%v: %v %d", x, is, e)
+		}
+		for i, state := range m.States {
+			if least, yield := bestYield(state, factor, wideList(x)); s[i] != least || yield.Cmp(wideOf(x[i])) != 0 {
+				t.Fatalf("state %d: %d instead of %d", i, s[i], least)
+			}
+		}
+	}
+	if valid < 50 {
+		t.Errorf("%d", valid)
+	}
+}

@@ -279,3 +279,48 @@ func TestLongProof(t *testing.T) {
 		}
 	}
 }
+
+// P12.3, P12.8: proofs for models with many states and choices
+func TestManyStates(t *testing.T) {
+	r := rand.New(rand.NewSource(7))
+	seen := map[string]int{}
+	for range 150 {
+		n := 10 + r.Intn(api.MaxStates-9)
+		m := sample(r, n, api.MaxChoices, 4)
+		for s := range m.States {
+			// few branches, so that many values are valid
+			for i := range m.States[s].Choices {
+				if r.Intn(3) > 0 {
+					m.States[s].Choices[i].Branches = []api.Branch{{To: r.Intn(n), Chance: number(1)}}
+				}
+			}
+			// in most models all choices lead to states with greater numbers, or back
+			for i, c := range m.States[s].Choices {
+				if last := c.Branches[len(c.Branches)-1]; n%4 > 0 && last.To <= s && s < n-1 {
+					m.States[s].Choices[i].Branches = []api.Branch{{To: s + 1 + r.Intn(n-s-1), Chance: number(1)}}
+				}
+			}
+		}
+		for _, max := range both() {
+			goal := []int{n - 1}
+			p, e := Prove(m, goal, max)
+			if e != api.OK {
+				seen["full"]++
+				continue
+			}
+			if is, f := Check(m, goal, max, p); !is || f != api.OK || !isProof(m, goal, max, p) {
+				t.Fatalf("%v %v: %v %d", m, p, is, f)
+			}
+			for _, v := range p.Value[:n-1] {
+				if v.Inf {
+					seen["infinite"]++
+				} else if v.Num.Top > 0 {
+					seen["positive"]++
+				}
+			}
+		}
+	}
+	if seen["infinite"] < 500 || seen["positive"] < 500 {
+		t.Errorf("%v", seen)
+	}
+}
