@@ -154,20 +154,6 @@ func TestNoCycle(t *testing.T) {
 	}
 }
 
-// TestImpatient: the exchanges that always come to an end lead to correct results, too.
-func TestImpatient(t *testing.T) {
-	r := rand.New(rand.NewSource(6))
-	for i := range 3000 {
-		p := sample(r, r.Intn(8), r.Intn(8), smallDraws()[i%2])
-		table := newTable(p)
-		table.exchanges = patience * 100
-		out, e := table.result(table.solve())
-		if e != api.OK || !isAnswer(p, out) {
-			t.Fatalf("%v: %v %d", p, out, e)
-		}
-	}
-}
-
 func TestExamples(t *testing.T) {
 	r, _ := solve(t, Problem{[][]api.Num{row(1, 1), row(0, 1)}, row(4, 3), row(1, 2)}, true)
 	if !reflect.DeepEqual(r, Result{Kind: Optimal, Value: of(7, 1), X: row(1, 3), Y: row(1, 1)}) {
@@ -222,18 +208,6 @@ func TestLongFactors(t *testing.T) {
 	p := Problem{[][]api.Num{{of(1, api.MaxNum-1)}}, []api.Num{of(-1, api.MaxNum)}, row(0)}
 	if r, _ := solve(t, p, true); r.Kind != Infeasible {
 		t.Errorf("%v", r)
-	}
-}
-
-// TestPatience: after enough exchanges, a table no longer looks for the greatest gain.
-func TestPatience(t *testing.T) {
-	table := newTable(longNetwork())
-	table.solve()
-	if n := table.exchanges; n < 40 || !table.isGreedy() {
-		t.Errorf("%d exchanges", n)
-	}
-	if table.exchanges = patience * 80; table.isGreedy() {
-		t.Error("still greedy")
 	}
 }
 

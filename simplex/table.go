@@ -1,15 +1,10 @@
-package lp
+package simplex
 
 import (
 	"cmp"
-	"dicebox/api"
 	"dicebox/exact"
 	"slices"
 )
-
-// maxBits bounds the length of the numbers of a table. Those of small problems are far shorter; where
-// they are longer, a result with valid numbers is not to be expected within reasonable time.
-const maxBits = 5000
 
 // tooLong is the kind of the outcome that the numbers of the table have become too long.
 const tooLong = -1
@@ -30,42 +25,42 @@ type table struct {
 	base      []int         // the variable of each row
 	free      []int         // the variable of each column
 	scales    []exact.Int   // by what the rows of the problem, and then the goal, were multiplied
+	maxBits   int           // the greatest length of the common lower number, 0 if any is admitted
 	exchanges int
 }
 
 // newTable returns the table of p in which all numbers of x are free.
-func newTable(p Problem) *table {
-	t := &table{low: exact.Whole(1)}
+func newTable(p Problem, maxBits int) *table {
+	t := &table{low: exact.Whole(1), maxBits: maxBits}
 	for i, row := range p.Rows {
 		t.addRow(append(slices.Clone(row), p.Right[i]))
 		t.base = append(t.base, len(p.Goal)+i)
 	}
-	worth := make([]api.Num, 0, len(p.Goal)+1)
+	worth := make([]exact.Rat, len(p.Goal)+1)
 	for j, goal := range p.Goal {
-		worth = append(worth, api.Num{Top: -goal.Top, Low: goal.Low})
+		worth[j] = goal.Neg()
 		t.free = append(t.free, j)
 	}
-	zero, one := api.Num{Top: 0, Low: 1}, api.Num{Top: 1, Low: 1}
-	t.addRow(append(worth, zero))
-	t.addRow(append(slices.Repeat([]api.Num{one}, len(p.Goal)), zero))
+	one := exact.Ratio(exact.Whole(1), exact.Whole(1))
+	t.addRow(worth)
+	t.addRow(append(slices.Repeat([]exact.Rat{one}, len(p.Goal)), exact.Rat{}))
 	return t
 }
 
 // addRow adds a row with these numbers, multiplied by the least integer that makes integers of them.
-func (t *table) addRow(numbers []api.Num) {
-	scale := exact.Whole(1)
-	for _, number := range numbers {
-		low := exact.Whole(number.Low)
-		factor, _ := low.Divide(scale.Divisor(low))
-		scale = scale.Mul(factor)
-	}
+func (t *table) addRow(numbers []exact.Rat) {
+	scale := exact.Common(numbers)
 	row := make([]exact.Int, len(numbers))
 	for j, number := range numbers {
-		factor, _ := scale.Divide(exact.Whole(number.Low))
-		row[j] = exact.Whole(number.Top).Mul(factor)
+		row[j] = number.Times(scale)
 	}
 	t.cells = append(t.cells, row)
 	t.scales = append(t.scales, scale)
+}
+
+// isTooLong reports whether the common lower number is longer than the table admits.
+func (t *table) isTooLong() bool {
+	return t.maxBits > 0 && t.low.Bits() > t.maxBits
 }
 
 // last returns the last cell of row i.
@@ -96,7 +91,7 @@ func (t *table) solve() (int, int) {
 
 // repair makes all last cells at least 0. All cells of the helper are at least 0 throughout.
 func (t *table) repair() (int, int) {
-	for t.low.Bits() <= maxBits {
+	for !t.isTooLong() {
 		row := t.brokenRow()
 		if row < 0 {
 			return Optimal, 0
@@ -112,7 +107,7 @@ func (t *table) repair() (int, int) {
 
 // improve makes all cells of the worth at least 0. All last cells are at least 0 throughout.
 func (t *table) improve() (int, int) {
-	for t.low.Bits() <= maxBits {
+	for !t.isTooLong() {
 		column := t.gainingColumn()
 		if column < 0 {
 			return Optimal, 0
